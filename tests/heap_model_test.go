@@ -228,17 +228,17 @@ func checkShapeModel(t *testing.T, h impl.Heap, roots []int, g impl.Heap, others
 	return want
 }
 
-// eachRow gives all rows of so many of the words.
-func eachRow(words []int, count int, give func([]int)) {
-	row := make([]int, count)
+// eachRow gives all rows of so many of the things.
+func eachRow[T any](things []T, count int, give func([]T)) {
+	row := make([]T, count)
 	var from func(at int)
 	from = func(at int) {
 		if at == count {
 			give(row)
 			return
 		}
-		for _, w := range words {
-			row[at] = w
+		for _, thing := range things {
+			row[at] = thing
 			from(at + 1)
 		}
 	}

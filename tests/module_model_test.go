@@ -267,39 +267,22 @@ func shortAlphabet(length int) []impl.Ins {
 	return list
 }
 
-// eachCode calls with all codes of a length.
-func eachCode(length int, alphabet []impl.Ins, call func(code []impl.Ins)) {
-	code := make([]impl.Ins, length)
-	var choose func(at int)
-	choose = func(at int) {
-		if at == length {
-			call(code)
-			return
-		}
-		for _, i := range alphabet {
-			code[at] = i
-			choose(at + 1)
-		}
-	}
-	choose(0)
-}
-
 func TestVerifyAllShortCodes(t *testing.T) {
 	var count tally
 	for length := 1; length <= 3; length++ {
-		eachCode(length, shortAlphabet(length), func(code []impl.Ins) {
+		eachRow(shortAlphabet(length), length, func(code []impl.Ins) {
 			checkVerifyModel(t, moduleOf(code, ending(0, true)), &count)
 		})
 	}
 	// In a function with two parameters more of the codes find what they take.
-	eachCode(3, shortAlphabet(3), func(code []impl.Ins) {
+	eachRow(shortAlphabet(3), 3, func(code []impl.Ins) {
 		m := moduleOf([]impl.Ins{insVoid, insReturn}, function(2, []bool{true}, code...))
 		checkVerifyModel(t, m, &count)
 	})
 	// Four instructions are enough for a loop that changes a slot.
 	few := []impl.Ins{insInt, insVoid, insLocal(0), insEmpty, insUnbox, ins(impl.InsCall, 0), insReturn, insPrim(impl.PrimAdd),
 		insPrim(impl.PrimNot), insSlide(1), insPop, insJump(0), insJump(1), insFalse(0), insFalse(2), insFalse(3)}
-	eachCode(4, few, func(code []impl.Ins) {
+	eachRow(few, 4, func(code []impl.Ins) {
 		m := moduleOf([]impl.Ins{insVoid, insReturn}, function(1, nil, code...))
 		checkVerifyModel(t, m, &count)
 	})
