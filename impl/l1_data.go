@@ -143,7 +143,8 @@ func symbolByte(c byte) bool {
 	return letter || digitByte(c) || strings.IndexByte(symbolMarks, c) >= 0
 }
 
-// readFault is what the reader stops with: the code and offset of the fault.
+// readFault is what a reader stops with: the code of the fault, and in a source
+// its offset.
 type readFault struct {
 	code int
 	at   int
@@ -164,8 +165,8 @@ func Read(src []byte) (data []Datum, code int, at int) {
 	return readSource(src), CodeOK, 0
 }
 
-// ownFault panics once more with what is no fault of the reader's: a mistake
-// of the program must not be taken for one of the source.
+// ownFault panics once more with what is no fault of a reader's: a mistake of
+// the program must not be taken for one of what it reads.
 func ownFault(caught any) readFault {
 	var fault readFault
 	if err, ok := caught.(error); ok && errors.As(err, &fault) {
