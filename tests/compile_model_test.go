@@ -551,45 +551,56 @@ func modelDefined(d *tree) (string, bool) {
 	return d.kids[1].text(), true
 }
 
-// modelCompile answers what Compile and Unbound must answer for a program of
-// valid data.
-func modelCompile(forms []*tree) (impl.Module, int, []string) {
+// modelForm is a form whose symbols are resolved.
+type modelForm struct {
+	node    *node
+	defines bool
+	global  int // what it defines
+}
+
+// modelForms resolves a program of valid data. The forms are to be used if the
+// reader has found nothing amiss.
+func modelForms(trees []*tree) (modelReader, []modelForm) {
 	r := modelReader{globals: map[string]int{}, unbound: map[string]bool{}}
-	for _, d := range forms {
+	for _, d := range trees {
 		name, ok := modelDefined(d)
 		if _, known := r.globals[name]; ok && !known {
 			r.globals[name] = len(r.globals)
 		}
 		r.outside = r.outside || ok && name == ""
 	}
-	if r.outside {
-		return impl.Module{}, impl.CodeSyntax, nil
+	var forms []modelForm
+	for _, d := range trees {
+		name, defines := modelDefined(d)
+		if defines && name != "" {
+			d = d.kids[2]
+		}
+		forms = append(forms, modelForm{node: r.node(d, nil), defines: defines, global: r.globals[name]})
+	}
+	return r, forms
+}
+
+// modelCompile answers what Compile and Unbound must answer for a program of
+// valid data.
+func modelCompile(trees []*tree) (impl.Module, int, []string) {
+	r, forms := modelForms(trees)
+	if r.outside || len(r.unbound) > 0 {
+		return modelAnswer(r, nil)
 	}
 	var c lineMaker
-	for i, d := range forms {
-		name, defines := modelDefined(d)
-		last := i == len(forms)-1
-		kids := []*tree{d}
-		if defines {
-			kids = d.kids[2:]
-		}
-		n := r.all(kids, nil)[0]
+	for i, f := range forms {
 		switch {
-		case r.outside || len(r.unbound) > 0:
-		case defines:
-			c.value(n)
-			c.op(impl.InsSetGlobal, r.globals[name])
-		case last:
-			c.tail(n)
+		case f.defines:
+			c.value(f.node)
+			c.op(impl.InsSetGlobal, f.global)
+		case i == len(forms)-1:
+			c.tail(f.node)
 		default:
-			c.value(n)
+			c.value(f.node)
 			c.op(impl.InsPop, 0)
 		}
-		if last && defines {
-			c.put(line{op: impl.InsVoid}, line{op: impl.InsReturn})
-		}
 	}
-	if len(forms) == 0 {
+	if len(forms) == 0 || forms[len(forms)-1].defines {
 		c.put(line{op: impl.InsVoid}, line{op: impl.InsReturn})
 	}
 	return modelAnswer(r, c.lines)

@@ -154,26 +154,38 @@ func (m *model) run(run string) *tree {
 	return d
 }
 
-func modelRead(src string) ([]impl.Datum, string, int, int) {
+// modelTrees answers the trees of a source, or a code and an offset.
+func modelTrees(src string) ([]*tree, int, int) {
 	if len(src) > impl.MaxSource {
-		return nil, "", impl.CodeLimit, impl.MaxSource
+		return nil, impl.CodeLimit, impl.MaxSource
 	}
 	m := &model{src: src}
-	var data []impl.Datum
-	text, deepest := "", 0
+	var trees []*tree
+	count, deepest := 0, 0
 	for m.gap(); m.at < len(src); m.gap() {
 		d := m.datum()
 		if d == nil {
-			return nil, "", m.code, m.at
+			return nil, m.code, m.at
 		}
-		data = append(data, d.flat()...)
-		text += d.text() + "\n"
+		trees = append(trees, d)
+		count += len(d.flat())
 		deepest = max(deepest, d.deep())
 	}
-	if len(data) > impl.MaxData || deepest > impl.MaxDeep {
-		return nil, "", impl.CodeLimit, 0
+	if count > impl.MaxData || deepest > impl.MaxDeep {
+		return nil, impl.CodeLimit, 0
 	}
-	return data, text, impl.CodeOK, 0
+	return trees, impl.CodeOK, 0
+}
+
+func modelRead(src string) ([]impl.Datum, string, int, int) {
+	trees, code, at := modelTrees(src)
+	var data []impl.Datum
+	text := ""
+	for _, d := range trees {
+		data = append(data, d.flat()...)
+		text += d.text() + "\n"
+	}
+	return data, text, code, at
 }
 
 func checkModel(t *testing.T, src string) {
